@@ -208,7 +208,7 @@ func TestSketchOkAdds(t *testing.T) {
 	}
 }
 
-// Each row has its own place for a key: these were worked out by hand.
+// Each row has its own place for a key: these were worked out apart from this program.
 func TestCountKeyPlaces(t *testing.T) {
 	for key, places := range map[string][3]int{
 		"": {9, 10, 11}, "a": {0, 9, 14}, "b": {9, 0, 3}, "key": {9, 9, 12}, "\x00": {3, 14, 9},
