@@ -217,7 +217,7 @@ func TestNearTextsAreNewMemory(t *testing.T) {
 	wrong.Safe.Most = 9
 	for _, n := range []impl.Near{fullNear(1), fullNear(2), fullNear(4), fullNear(8), wrong, nearOf(8, nearNames(1), nil, nil)} {
 		given := textsOf(n)
-		for _, key := range append(queuedKeys(n), "not there") {
+		for _, key := range append(queuedKeys(n), "not there", "thirteen here") {
 			key, val := strings.Repeat(key, 1), strings.Repeat("val ", 4)
 			texts := append(slices.Clone(given), key, val)
 			wanted, has, _ := impl.WantKey(n, key)

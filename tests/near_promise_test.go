@@ -197,12 +197,12 @@ func TestPromise8RefusedChangesNothing(t *testing.T) {
 			l.keep(t, key, key)
 			before := l.near
 			for _, other := range []string{"", "thirteen here", strings.Repeat("x", 600)} {
-				if _, ok := l.keep(t, other, "val"); ok || l.forget(t, other) {
-					t.Fatalf("size %d: %.20q is kept or forgotten", size, other)
+				if _, ok := l.keep(t, other, "val"); ok || l.forget(t, other) || l.want(t, other) {
+					t.Fatalf("size %d: %.20q is kept, forgotten or there", size, other)
 				}
 			}
-			if _, ok := l.keep(t, key, strings.Repeat("v", 21)); ok || l.want(t, "") {
-				t.Fatalf("size %d: a val too long is kept, or an empty key is there", size)
+			if _, ok := l.keep(t, key, strings.Repeat("v", 21)); ok {
+				t.Fatalf("size %d: a val too long is kept", size)
 			}
 			if !sameNear(l.near, before) {
 				t.Fatalf("size %d: %v is %v behind what was refused", size, before, l.near)

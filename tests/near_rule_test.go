@@ -189,7 +189,7 @@ func ruleLayEntry(n impl.Near, key, val string) impl.Near {
 }
 
 func ruleWant(n impl.Near, key string) (impl.Near, string, bool) {
-	if !ruleNearRight(n) || key == "" {
+	if !ruleNearRight(n) || !ruleKey(key) {
 		return n, "", false
 	}
 	val, there := ruleVal(n, key)

