@@ -57,11 +57,21 @@ func wantOneValue(t *testing.T, c council, events []happen) {
 	}
 }
 
-// wantLife holds a life against the promise after each of its events.
-func wantLife(t *testing.T, voices, tries int, events []happen) council {
+// noteChosen notes the Tries that are Chosen, since those that begin anew are not any more.
+func noteChosen(chosen map[int]int, c council) {
+	for _, a := range c.Tries {
+		if a.Chosen {
+			chosen[a.Id]++
+		}
+	}
+}
+
+// wantLife holds a life against the promise after each of its events; how many Tries were Chosen in it is told, too.
+func wantLife(t *testing.T, voices, tries int, events []happen) (council, int) {
 	t.Helper()
 	d := decided{took: map[int]map[int]string{}}
 	before := council{}
+	chosen := map[int]int{}
 	for count := range len(events) + 1 {
 		c, numbers, ok := impl.RunCouncil(voices, tries, events[:count])
 		if !ok || len(numbers) != count {
@@ -75,34 +85,24 @@ func wantLife(t *testing.T, voices, tries int, events []happen) council {
 		if len(c.Chosen) > 0 && !slices.Equal(d.values, c.Chosen[:1]) {
 			t.Fatalf("by %v %q is chosen, but most voices took %q", events[:count], c.Chosen, d.values)
 		}
+		noteChosen(chosen, c)
 		before = c
 	}
-	return before
+	return before, len(chosen)
 }
 
 func TestPromise12DrawnLives(t *testing.T) {
 	once, often, byTwo := 0, 0, 0
 	for seed := range 400 {
 		voices, tries := 1+seed%5, 1+seed/5%4
-		c := wantLife(t, voices, tries, drawnHappens(tries, 80, seed*31))
+		c, chosen := wantLife(t, voices, tries, drawnHappens(tries, 80, seed*31))
 		once += min(len(c.Chosen), 1)
 		often += min(len(c.Chosen)/2, 1)
-		byTwo += min(chosenTries(c)/2, 1)
+		byTwo += min(chosen/2, 1)
 	}
 	if once < 150 || often < 60 || byTwo < 25 {
 		t.Fatalf("in %d lives something is chosen, in %d more than once, in %d by two Tries", once, often, byTwo)
 	}
-}
-
-// chosenTries is how many Tries were Chosen.
-func chosenTries(c council) int {
-	count := 0
-	for _, a := range c.Tries {
-		if a.Chosen {
-			count++
-		}
-	}
-	return count
 }
 
 // More lives, looked at when they are over.
@@ -151,9 +151,9 @@ func TestPromise12Rivals(t *testing.T) {
 	once, byTwo, late := 0, 0, 0
 	for seed := range 400 {
 		voices, tries := 1+seed%5, 2+seed/5%3
-		c := wantLife(t, voices, tries, rivals(voices, tries, seed*13+1))
+		c, chosen := wantLife(t, voices, tries, rivals(voices, tries, seed*13+1))
 		once += min(len(c.Chosen), 1)
-		byTwo += min(chosenTries(c)/2, 1)
+		byTwo += min(chosen/2, 1)
 		late += len(c.Notes)
 	}
 	if once < 200 || byTwo < 60 || late < 1000 {

@@ -118,7 +118,7 @@ func rulePropose(c council, e happen) (council, int) {
 	if t.Ballot > 9990 {
 		return c, 1
 	}
-	c.Tries[e.Id-1] = try{Id: e.Id, Ballot: t.Ballot + 10, Value: e.Value, Chosen: t.Chosen}
+	c.Tries[e.Id-1] = try{Id: e.Id, Ballot: t.Ballot + 10, Value: e.Value}
 	for at := range c.Voices {
 		c.Notes = append(c.Notes, askPromise(e.Id, at+1, t.Ballot+10))
 	}

@@ -278,24 +278,26 @@ func chosenOnce(t *testing.T) *scene {
 	return s
 }
 
-// A Try that was Chosen and is proposed anew stays Chosen, and is chosen again with the same Value.
+// A Try that was Chosen and is proposed anew is not, until it is chosen again with the same Value.
 func TestChosenAndProposedAnew(t *testing.T) {
 	s := chosenOnce(t)
 	s.do(t, propose(1, "anew"), 0)
-	s.wantTry(t, try{Id: 1, Ballot: 11, Value: "anew", Chosen: true})
+	s.wantTry(t, try{Id: 1, Ballot: 11, Value: "anew"})
 	s.wantChosen(t, "it")
 	s.promise(t, 1, 3)
-	s.wantTry(t, try{Id: 1, Ballot: 11, Value: "anew", Chosen: true, Promises: []note{tellPromise(3, 1, 11, 0, "")}})
+	s.wantTry(t, try{Id: 1, Ballot: 11, Value: "anew", Promises: []note{tellPromise(3, 1, 11, 0, "")}})
 	s.promise(t, 1, 2)
 	again := try{
-		Id: 1, Ballot: 11, Value: "it", Chosen: true, Asked: true,
+		Id: 1, Ballot: 11, Value: "it", Asked: true,
 		Promises: []note{tellPromise(3, 1, 11, 0, ""), tellPromise(2, 1, 11, 1, "it")},
 	}
 	s.wantTry(t, again)
 	s.carry(t, s.take(t, 1, 3))
+	again.Takers = []int{3}
+	s.wantTry(t, again)
 	s.wantChosen(t, "it")
 	s.carry(t, s.take(t, 1, 2))
-	again.Takers = []int{3, 2}
+	again.Takers, again.Chosen = []int{3, 2}, true
 	s.wantTry(t, again)
 	s.wantChosen(t, "it", "it")
 	s.carry(t, s.take(t, 1, 1))
