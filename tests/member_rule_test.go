@@ -88,12 +88,13 @@ func ruleAdopt(m member, views [][]int, epoch int) (member, []msg, bool) {
 	if !ruleMember(m) || !ruleViews(views) || epoch < 2 || epoch > len(views) || epoch <= m.Epoch || views[epoch-1][0] != m.Id {
 		return member{}, nil, false
 	}
-	if m.Base && m.Epoch+1 == epoch {
+	before := views[epoch-2]
+	if m.Base && m.Epoch+1 == epoch && slices.Index(before, m.Id) >= 0 {
 		next, told := ruleState(m.Id, epoch, 0, views, m.Items)
 		return next, told, true
 	}
 	var told []msg
-	for _, node := range views[epoch-2] {
+	for _, node := range before {
 		if node != m.Id {
 			told = append(told, msg{Kind: 1, From: m.Id, To: node, Epoch: epoch})
 		}
