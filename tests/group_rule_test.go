@@ -408,14 +408,8 @@ func (d *draws) event(g group, kind int) event {
 	return e
 }
 
-// drawnLife is a life of so many events, and the views in which it goes.
-func drawnLife(count, seed int) ([][]int, []event) {
-	d := newDraws(seed)
-	views := d.kinViews()
-	if d.below(5) == 0 {
-		views = d.views()
-	}
-	w := drawnWays(seed)
+// lifeIn is a life of so many events that goes in these views.
+func (d *draws) lifeIn(views [][]int, count int, w ways) []event {
 	g, _ := ruleGroupNew(views)
 	var events []event
 	for place := range count {
@@ -428,5 +422,15 @@ func drawnLife(count, seed int) ([][]int, []event) {
 		events = append(events, e)
 		g, _ = ruleStep(g, e, place)
 	}
-	return views, events
+	return events
+}
+
+// drawnLife is a life of so many events, and the views in which it goes.
+func drawnLife(count, seed int) ([][]int, []event) {
+	d := newDraws(seed)
+	views := d.kinViews()
+	if d.below(5) == 0 {
+		views = d.views()
+	}
+	return views, d.lifeIn(views, count, drawnWays(seed))
 }
